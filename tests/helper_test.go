@@ -2,7 +2,10 @@ package tests
 
 import (
 	"fmt"
+	"iter"
+	"maps"
 	"math"
+	"slices"
 	"strings"
 	"testing"
 	"unsafe"
@@ -111,3 +114,14 @@ func sharesText(a, b string) bool {
 
 // farNumbers are those at which sums and shifts go wrong.
 var farNumbers = []int{math.MinInt, math.MinInt + 1, math.MinInt32 - 1, math.MinInt32, math.MaxInt32, math.MaxInt32 + 1, math.MaxUint32, math.MaxUint32 + 1, math.MaxInt - 32, math.MaxInt - 1, math.MaxInt}
+
+// valuesOf is what a map has, by its keys in order, so that every run sees the same.
+func valuesOf[V any](of map[string]V) iter.Seq[V] {
+	return func(yield func(V) bool) {
+		for _, key := range slices.Sorted(maps.Keys(of)) {
+			if !yield(of[key]) {
+				return
+			}
+		}
+	}
+}
